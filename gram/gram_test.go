@@ -30,7 +30,7 @@ func grammar(t *testing.T, s string) api.Grammar {
 	return g
 }
 
-func syms(g api.Grammar, l []int) string {
+func symNames(g api.Grammar, l []int) string {
 	s := ""
 	for _, x := range l {
 		s += " " + Name(g, x)
@@ -67,7 +67,7 @@ func showNons(g api.Grammar) string {
 func showProds(g api.Grammar) string {
 	var l []string
 	for _, p := range g.Prods {
-		l = append(l, fmt.Sprintf("%s:%s prec %d %s(%s)@%d", g.Nons[p.Left].Name, syms(g, p.Right), p.Prec, p.Code, strings.TrimSpace(syms(g, p.Args)), p.At))
+		l = append(l, fmt.Sprintf("%s:%s prec %d %s(%s)@%d", g.Nons[p.Left].Name, symNames(g, p.Right), p.Prec, p.Code, strings.TrimSpace(symNames(g, p.Args)), p.At))
 	}
 	return strings.Join(l, "\n")
 }
