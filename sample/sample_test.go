@@ -34,3 +34,20 @@ func TestFault(t *testing.T) {
 		t.Error(f)
 	}
 }
+
+func TestTree(t *testing.T) {
+	for seed := range 200 {
+		g, _ := Grammar(Small(seed))
+		x, ok := Tree(g, seed)
+		if !ok {
+			continue
+		}
+		if start := g.Prods[0].Right[0]; x.Sym != start || x.Prod < 1 || len(x.Kids) != len(g.Prods[x.Prod].Right) {
+			t.Errorf("%s: %v", Small(seed), x)
+		}
+	}
+	g, _ := Grammar("%%a: a 'x'")
+	if x, ok := Tree(g, 1); ok || x.Sym != 0 || x.Kids != nil {
+		t.Error(x)
+	}
+}

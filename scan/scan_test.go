@@ -42,3 +42,14 @@ func TestBehind(t *testing.T) {
 		t.Error("places")
 	}
 }
+
+func TestDigits(t *testing.T) {
+	for s, want := range map[string]int{"": 0, "a": 0, "0": 1, "019a": 3, "9/": 1, "5:": 1} {
+		if got := Digits(s, 0); got != want {
+			t.Errorf("%q: %d", s, got)
+		}
+	}
+	if !Letter('a') || !Letter('Z') || Letter('_') || Letter('0') || Letter('[') || Letter('`') {
+		t.Error("letters")
+	}
+}
